@@ -4,6 +4,7 @@ import (
 	"bytes"
 	"hash/crc32"
 	"math/bits"
+	"strconv"
 	"testing"
 )
 
@@ -56,8 +57,8 @@ func TestSumOfKnownRows(t *testing.T) {
 		{"123456789", 0xCBF43926},
 		{"The quick brown fox jumps over the lazy dog", 0x414FA339},
 	} {
-		hold(t, "Sum of "+c.text, Sum([]byte(c.text)), c.want)
-		hold(t, "More of "+c.text, More(0, []byte(c.text)), c.want)
+		hold(t, "Sum of "+strconv.Quote(c.text), Sum([]byte(c.text)), c.want)
+		hold(t, "More of "+strconv.Quote(c.text), More(0, []byte(c.text)), c.want)
 	}
 }
 
